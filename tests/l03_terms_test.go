@@ -35,8 +35,8 @@ func pairSign(kind int) string {
 	return map[int]string{impl.TmAdd: "+", impl.TmSub: "-", impl.TmMul: "*", impl.TmLess: "<", impl.TmSame: "==", impl.TmAnd: "and"}[kind]
 }
 
-// Kinds with kids one within the other, as many as deep, and the leaf innermost.
-func nested(deep int, leaf impl.Term, around func(impl.Term) impl.Term) impl.Term {
+// What stands around, one within the other, as many as deep, and the leaf innermost.
+func nested[T any](deep int, leaf T, around func(T) T) T {
 	for range deep {
 		leaf = around(leaf)
 	}
