@@ -505,6 +505,26 @@ func TestFlowAtTheEdges(t *testing.T) {
 	wantFlow(t, k, "a code with spare room", flowLines(ordinaryCode())...)
 }
 
+// Writes into each of these lists, and the spare room behind it, and looks whether another one is changed by it.
+func wantApart(t *testing.T, lists [][]int, what string) {
+	t.Helper()
+	var kept [][]int
+	for _, list := range lists {
+		kept = append(kept, slices.Clone(list))
+	}
+	for i, list := range lists {
+		room := list[:cap(list)]
+		for j := range room {
+			room[j] = -77
+		}
+		for j := i + 1; j < len(lists); j++ {
+			if !slices.Equal(lists[j], kept[j]) {
+				t.Fatalf("lists %d and %d of %s share memory", i, j, what)
+			}
+		}
+	}
+}
+
 // Each list is new: what is done to one is seen in no other, and not in the code.
 func TestFlowSharesNothing(t *testing.T) {
 	for seed := range 300 {
@@ -516,27 +536,14 @@ func TestFlowSharesNothing(t *testing.T) {
 		cut := full
 		cut.Entry, cut.Ins = full.Entry[:len(k.Entry)], full.Ins[:len(k.Ins)]
 		lines := flowLines(cut)
-		var lists, kept [][]int
+		var lists [][]int
 		for place := range cut.Ins {
 			lists = append(lists, impl.NextOf(cut, place), impl.AheadOf(cut, place), impl.ReachIn(cut, place))
 		}
 		for proc := range cut.Entry {
 			lists = append(lists, impl.LiveIn(cut, proc))
 		}
-		for _, list := range lists {
-			kept = append(kept, slices.Clone(list))
-		}
-		for i, list := range lists {
-			room := list[:cap(list)]
-			for j := range room {
-				room[j] = -77
-			}
-			for j := i + 1; j < len(lists); j++ {
-				if !slices.Equal(lists[j], kept[j]) {
-					t.Fatalf("lists %d and %d of %s share memory", i, j, whole)
-				}
-			}
-		}
+		wantApart(t, lists, whole)
 		if allOfCode(full) != whole || !slices.Equal(flowLines(cut), lines) {
 			t.Fatalf("%s was changed, or what is told of it", whole)
 		}

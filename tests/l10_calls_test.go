@@ -626,24 +626,11 @@ func TestCallsShareNothing(t *testing.T) {
 		cut := full
 		cut.Procs, cut.Entry, cut.Ins = full.Procs[:len(k.Procs)], full.Entry[:len(k.Entry)], full.Ins[:len(k.Ins)]
 		lines := callLines(cut)
-		var lists, kept [][]int
+		var lists [][]int
 		for proc := range cut.Entry {
 			lists = append(lists, impl.CallsOf(cut, proc), impl.SpawnsOf(cut, proc), impl.CallsFrom(cut, proc), impl.CallersOf(cut, proc), impl.SitesOf(cut, proc))
 		}
-		for _, list := range lists {
-			kept = append(kept, slices.Clone(list))
-		}
-		for i, list := range lists {
-			room := list[:cap(list)]
-			for j := range room {
-				room[j] = -77
-			}
-			for j := i + 1; j < len(lists); j++ {
-				if !slices.Equal(lists[j], kept[j]) {
-					t.Fatalf("lists %d and %d of %s share memory", i, j, whole)
-				}
-			}
-		}
+		wantApart(t, lists, whole)
 		if allOfCode(full) != whole || !slices.Equal(callLines(cut), lines) {
 			t.Fatalf("%s was changed, or what is told of it", whole)
 		}
