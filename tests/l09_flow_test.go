@@ -460,14 +460,16 @@ func wrongCodes() map[string]impl.Code {
 	return wrong
 }
 
-func TestNoFlowOfWrongCodes(t *testing.T) {
+// Wants one thing of codes that are not right, also of picked ones that were spoilt, and the other of those that are right all the same.
+func wantOfSpoiltCodes(t *testing.T, pick func(seed *int) impl.Code, wantRight func(t *testing.T, k impl.Code, what string), wantWrong func(t *testing.T, k impl.Code, what string)) {
+	t.Helper()
 	for what, k := range wrongCodes() {
-		wantNoFlow(t, k, what)
+		wantWrong(t, k, what)
 	}
 	right, wrong := 0, 0
 	for seed := range 6000 {
 		at := seed
-		k := anyFlowCode(&at)
+		k := pick(&at)
 		for range 1 + seed%2 {
 			if len(k.Ins) > 0 && len(k.Entry) > 0 {
 				spoilCode(&k, &at)
@@ -475,15 +477,19 @@ func TestNoFlowOfWrongCodes(t *testing.T) {
 		}
 		if codeOkByRule(k) {
 			right++
-			wantFlowByRule(t, k, "a spoilt code")
+			wantRight(t, k, "a spoilt code")
 		} else {
 			wrong++
-			wantNoFlow(t, k, "a spoilt code")
+			wantWrong(t, k, "a spoilt code")
 		}
 	}
 	if right < 300 || wrong < 1000 {
 		t.Errorf("only %d codes that are right and %d that are not were met", right, wrong)
 	}
+}
+
+func TestNoFlowOfWrongCodes(t *testing.T) {
+	wantOfSpoiltCodes(t, anyFlowCode, wantFlowByRule, wantNoFlow)
 }
 
 // At the first and the last place and procedure something is told, one below 0 and one past the end nothing.

@@ -560,29 +560,7 @@ func wantSitesOfCalls(t *testing.T, k impl.Code, proc int) {
 }
 
 func TestNoCallsOfWrongCodes(t *testing.T) {
-	for what, k := range wrongCodes() {
-		wantNoCalls(t, k, what)
-	}
-	right, wrong := 0, 0
-	for seed := range 6000 {
-		at := seed
-		k := anyCallCode(&at)
-		for range 1 + seed%2 {
-			if len(k.Ins) > 0 && len(k.Entry) > 0 {
-				spoilCode(&k, &at)
-			}
-		}
-		if codeOkByRule(k) {
-			right++
-			wantCallsByRule(t, k, "a spoilt code")
-		} else {
-			wrong++
-			wantNoCalls(t, k, "a spoilt code")
-		}
-	}
-	if right < 300 || wrong < 1000 {
-		t.Errorf("only %d codes that are right and %d that are not were met", right, wrong)
-	}
+	wantOfSpoiltCodes(t, anyCallCode, wantCallsByRule, wantNoCalls)
 }
 
 // Of the first and the last procedure something is told, of one below 0 and one past the end nothing.
